@@ -212,11 +212,14 @@ func wantAsTheFormSays(t *testing.T, text string) bool {
 	return true
 }
 
-// nearTexts has each text that differs from the given one by a byte that is changed, inserted or left out.
-func nearTexts(text string) []string {
+// noteBytes is bytes that could be mistaken in the text of a message.
+const noteBytes = " 01459-+.x\x00\n\t\x1f~\x7f\x80\xff"
+
+// nearTexts has each text that differs from the given one by a byte that is left out, or by one of these that is inserted or put in its place.
+func nearTexts(text string, bytes string) []string {
 	var near []string
 	for i := 0; i <= len(text); i++ {
-		for _, b := range []byte(" 01459-+.x\x00\n\t\x1f~\x7f\x80\xff") {
+		for _, b := range []byte(bytes) {
 			near = append(near, text[:i]+string([]byte{b})+text[i:])
 			if i < len(text) {
 				near = append(near, text[:i]+string([]byte{b})+text[i+1:])
@@ -242,11 +245,11 @@ func TestMessageHasOneText(t *testing.T) {
 		}
 	}
 	for _, start := range []string{"2 7 0 30 hello world", "3 99 3 999 ~", "1 10 2 100  a b ", "3 9 1 99 " + alphabet} {
-		hold(append(nearTexts(start), start))
+		hold(append(nearTexts(start, noteBytes), start))
 	}
 	for _, start := range []string{"0 1 0 1 a", "0 1 0 1  ", "2 50 2 9 6 7"} {
-		for _, near := range nearTexts(start) {
-			hold(nearTexts(near))
+		for _, near := range nearTexts(start, noteBytes) {
+			hold(nearTexts(near, noteBytes))
 		}
 	}
 	if accepted < 10000 || refused < 10000 {
@@ -307,17 +310,22 @@ func TestBlanksAtTheEndsOfATextAreKept(t *testing.T) {
 	}
 }
 
+// anyText has any bytes, but mostly usual ones: so that some of it can be read.
+func anyText(r *rand.Rand, usual string) string {
+	text := make([]byte, r.IntN(40))
+	for i := range text {
+		text[i] = byte(r.IntN(256))
+		if r.IntN(4) > 0 {
+			text[i] = usual[r.IntN(len(usual))]
+		}
+	}
+	return string(text)
+}
+
 func TestNoteReadEndsForAnyText(t *testing.T) {
 	r := rand.New(rand.NewPCG(5, 6))
 	for range 50000 {
-		text := make([]byte, r.IntN(40))
-		for i := range text {
-			text[i] = byte(r.IntN(256))
-			if r.IntN(4) > 0 {
-				text[i] = "0123  9"[r.IntN(7)]
-			}
-		}
-		wantAsTheFormSays(t, string(text))
+		wantAsTheFormSays(t, anyText(r, "0123  9"))
 	}
 }
 
