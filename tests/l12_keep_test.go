@@ -1144,8 +1144,8 @@ func TestStateIsRestoredFromItsRecords(t *testing.T) {
 	wantRestored(t, k)
 }
 
-// P29: records of a state go into a log.
-func TestRecordsOfAStateFitIntoALog(t *testing.T) {
+// greatestKeep is a state of node 2 whose records have as many bytes as those of a state can have.
+func greatestKeep() impl.Keep {
 	long := func(notes []impl.Note) []impl.Note {
 		for i := range notes {
 			notes[i].Num += 90
@@ -1157,7 +1157,12 @@ func TestRecordsOfAStateFitIntoALog(t *testing.T) {
 	for i := range marks {
 		marks[i].Num += 90
 	}
-	k := impl.Keep{Id: 2, Time: 998, Next: 100, Held: long(notesFor(6, 0, 3, 999)), Marks: marks, Inbox: long(notesFor(6, 1, 2, 999))}
+	return impl.Keep{Id: 2, Time: 998, Next: 100, Held: long(notesFor(6, 0, 3, 999)), Marks: marks, Inbox: long(notesFor(6, 1, 2, 999))}
+}
+
+// P29: records of a state go into a log.
+func TestRecordsOfAStateFitIntoALog(t *testing.T) {
+	k := greatestKeep()
 	wantRestored(t, k)
 	s, ok := impl.ShelfPack(impl.Shelf{}, impl.KeepRecs(k))
 	if !ok {
