@@ -24,14 +24,23 @@ func compareNames(a name, b name) int {
 	return cmp.Or(cmp.Compare(a.from, b.from), cmp.Compare(a.num, b.num))
 }
 
+// faultSet is what is wrong with something.
+type faultSet map[string]bool
+
+func (s faultSet) add(wrong bool, fault string) {
+	if wrong {
+		s[fault] = true
+	}
+}
+
+func (s faultSet) list() []string {
+	return slices.Sorted(maps.Keys(s))
+}
+
 // keepFaults is what is wrong with a state, each condition of the document apart from the program.
 func keepFaults(k impl.Keep) []string {
-	found := map[string]int{}
-	add := func(wrong bool, fault string) {
-		if wrong {
-			found[fault]++
-		}
-	}
+	found := faultSet{}
+	add := found.add
 	add(k.Id < 0 || k.Id > 3, "id")
 	add(k.Time < 0 || k.Time > 999, "time")
 	add(k.Next < 1 || k.Next > 100, "next")
@@ -69,7 +78,7 @@ func keepFaults(k impl.Keep) []string {
 		add(n.Until > k.Time && marks[nameOf(n)] == 0, "inbox unmarked")
 		last = nameOf(n)
 	}
-	return slices.Sorted(maps.Keys(found))
+	return found.list()
 }
 
 // keepModel is a state in maps, where nothing has an order, apart from the program.

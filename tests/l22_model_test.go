@@ -38,16 +38,12 @@ func stateByHand(id int, recs []string) (impl.Keep, bool) {
 
 // nodeFaults is what is wrong with a node, each condition of the document apart from the program.
 func nodeFaults(k impl.Keeper) []string {
-	var faults []string
-	add := func(wrong bool, fault string) {
-		if wrong && !slices.Contains(faults, fault) {
-			faults = append(faults, fault)
-		}
-	}
+	found := faultSet{}
+	add := found.add
 	add(k.Id < 0 || k.Id > 3, "id")
 	recs, size := readByHand(k.Shelf.Log)
 	add(size < len(k.Shelf.Log) || size > 2400 || !slices.Contains(ends(recs), k.Shelf.Forced), "log")
-	if len(faults) == 0 {
+	if len(found) == 0 {
 		_, ok := stateByHand(k.Id, recs)
 		add(!ok, "records")
 		_, ok = stateByHand(k.Id, recs[:slices.Index(ends(recs), k.Shelf.Forced)])
@@ -73,7 +69,7 @@ func nodeFaults(k impl.Keeper) []string {
 		add(len(nums) < len(h.Got), "blocks with one number")
 	}
 	add(len(names) < len(k.Halves), "halves with one name")
-	return faults
+	return found.list()
 }
 
 // nodeModel is a node as its records, of which the first ones are durable, and its state, apart from the program.

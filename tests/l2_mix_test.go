@@ -338,11 +338,11 @@ func TestPeelingDoesNotHangOnOrderOrRepetition(t *testing.T) {
 	}
 }
 
-func permutations(list []impl.Mixed) [][]impl.Mixed {
+func permutations[E any](list []E) [][]E {
 	if len(list) == 0 {
-		return [][]impl.Mixed{nil}
+		return [][]E{nil}
 	}
-	var all [][]impl.Mixed
+	var all [][]E
 	for i := range list {
 		for _, rest := range permutations(slices.Delete(slices.Clone(list), i, i+1)) {
 			all = append(all, append(rest, list[i]))
